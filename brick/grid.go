@@ -71,7 +71,7 @@ func (g grid) ends() (least, greatest spot) {
 	return least, greatest
 }
 
-// pieces yields the connected pieces in ascending order.
+// pieces yields the connected pieces in ascending order. It ranges over a copy of the grid, from which nothing is taken away.
 func (g grid) pieces(yield func(piece grid) bool) {
 	for q := range g.quarters {
 		if g.has(q) && !yield(g.take(q)) {
