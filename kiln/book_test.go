@@ -46,13 +46,14 @@ func replace(kind, n int, e api.Errno) deed {
 // all returns the wares of all kinds of a book, up to the first number that is none of a kind.
 func all(b *kiln.Book) []api.Wares {
 	var l []api.Wares
-	for {
-		w, e := b.Count(len(l))
+	for kind := range api.MaxWares + 1 {
+		w, e := b.Count(kind)
 		if e != api.OK {
-			return l
+			break
 		}
 		l = append(l, w)
 	}
+	return l
 }
 
 // carry carries out deeds, tests their errors, and that nothing has changed with an error.
